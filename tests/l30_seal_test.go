@@ -331,6 +331,41 @@ func TestRecordsMany(t *testing.T) {
 	}
 }
 
+// textWith looks for a text of three bytes with a digest.
+func textWith(digest int) string {
+	for n := range 1 << 24 {
+		text := string([]byte{byte(n >> 16), byte(n >> 8), byte(n)})
+		if (((7*257+n>>16+1)*257+n>>8&255+1)*257+n&255+1)%1000003 == digest {
+			return text
+		}
+	}
+	return ""
+}
+
+// A digest and a seal can be 0, and a seal SealSize - 1.
+func TestSealZero(t *testing.T) {
+	for _, digest := range []int{0, 1, 1000002} {
+		text := textWith(digest)
+		if impl.DigestOf(text) != digest || digestBy(text) != digest {
+			t.Fatalf("DigestOf(%q) = %d; want %d", text, impl.DigestOf(text), digest)
+		}
+		if got := impl.SealAfter(0, 0, text); got != digest {
+			t.Errorf("SealAfter(0, 0, %q) = %d; want %d", text, got, digest)
+		}
+		if record, ok := impl.AppendEntry(nil, 0, text); !ok || record[0].Seal != (1009+digest)%1000003 || !impl.IsSealed(record) {
+			t.Errorf("AppendEntry(%q) = %v, %v", text, record, ok)
+		}
+	}
+	for _, seal := range []int{0, 1, 1000002} {
+		text := textWith((seal + 1000003 - 1009) % 1000003)
+		record, ok := impl.AppendEntry(nil, 0, text)
+		next, isNext := impl.AppendEntry(record, 0, "x")
+		if !ok || !isNext || record[0].Seal != seal || !impl.IsSealed(next) || impl.FirstBroken(next) != -1 || impl.LastSeal(record) != seal {
+			t.Errorf("AppendEntry(%q) = %v, %v; and then %v, %v", text, record, ok, next, isNext)
+		}
+	}
+}
+
 // Two texts with the same digest have the same seal: only such texts can be exchanged.
 func TestDigestTwins(t *testing.T) {
 	first := map[int]string{}
